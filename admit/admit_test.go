@@ -67,6 +67,7 @@ func TestMake(t *testing.T) {
 		{1, api.Ask{Kind: api.EvMove, Node: a, Amount: 9, To: 2}, api.Event{Origin: 1, Seq: 3, Kind: api.EvMove, Node: a, Amount: 9, To: 2}, api.OK},
 		{2, api.Ask{Kind: api.EvJoin, To: 6}, api.Event{Origin: 2, Seq: 2, Kind: api.EvJoin, To: 6}, api.OK},
 		{2, api.Ask{Kind: api.EvLeave}, api.Event{Origin: 2, Seq: 2, Kind: api.EvLeave}, api.OK},
+		{6, api.Ask{Kind: api.EvLeave, Req: 1}, api.Event{}, api.ErrArg},
 		{0, api.Ask{Kind: api.EvLeave}, api.Event{}, api.ErrRegion},
 		{7, api.Ask{Kind: 99}, api.Event{}, api.ErrRegion},
 		{-1, api.Ask{}, api.Event{}, api.ErrRegion},

@@ -117,6 +117,7 @@ func TestErrorsOfSteps(t *testing.T) {
 	do(t, c, api.ErrArg, ask(1, api.Ask{}))
 	do(t, c, api.ErrState, step(api.StOn, 1))
 	do(t, c, api.OK, step(api.StOff, 1), step(api.StOff, 1), api.Step{Do: api.StFuse, Who: 1, N: 3})
+	do(t, c, api.ErrPower, ask(1, api.Ask{}), ask(1, take(a, 11, 1)), ask(1, take(9, 1, 1)))
 	do(t, c, api.ErrPower, ask(1, node(0, 10)), step(api.StTick, 1), api.Step{Do: api.StLeave, Who: 1, J: 2}, api.Step{Do: api.StLeave, Who: 1, J: 9})
 	if s, up := c.State(1); up || !same(s, api.State{}) {
 		t.Errorf("P24.1: of one that is off: %v, %v", s, up)
@@ -134,6 +135,14 @@ func TestTime(t *testing.T) {
 		if c.Now() != x.now {
 			t.Errorf("P24.2: behind StTime of %d: %d", x.n, c.Now())
 		}
+	}
+}
+
+func TestAllTimeAtOnce(t *testing.T) {
+	c := fresh(t, 2)
+	do(t, c, api.OK, api.Step{Do: api.StTime, N: api.MaxClock})
+	if c.Now() != api.MaxClock {
+		t.Error("P24.2: ", c.Now())
 	}
 }
 

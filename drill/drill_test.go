@@ -213,6 +213,19 @@ func TestCalmHearsWhatIsUnderWay(t *testing.T) {
 	}
 }
 
+func TestCalmHearsFirst(t *testing.T) {
+	w := fresh(t, 2)
+	for range 5 {
+		ask(t, w, 2, node(9), api.OK)
+	}
+	for k := range int64(25) {
+		ask(t, w, 2, api.Ask{Kind: api.EvRaise, Node: 2<<40 + 1, Amount: k + 1}, api.OK)
+	}
+	w.Do(api.Step{Do: api.StTick, Who: 2})
+	// Heard ahead of all, these 16 events are known to 1 when it tells 2; so 2 tells the others in the same round.
+	calm(t, w, 2, nil, 5, 1, api.OK)
+}
+
 // roll is a row of numbers that is the same each time.
 func roll(seed *uint32, n int) int {
 	*seed = *seed*1664525 + 1013904223

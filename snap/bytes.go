@@ -18,11 +18,10 @@ type writer struct {
 	b []byte
 }
 
-// reader takes numbers off its bytes; bad, once they are no number.
+// reader takes numbers off its bytes.
 type reader struct {
-	b   []byte
-	at  int
-	bad bool
+	b  []byte
+	at int
 }
 
 // number puts n behind, and tells it.
@@ -32,14 +31,12 @@ func (w *writer) number(n uint64, size int) uint64 {
 	return n
 }
 
-// number tells the next number, whatever n was.
+// number tells the next number, whatever n was; 0, if there is none.
 func (r *reader) number(n uint64, size int) uint64 {
 	n, next, e := octet.Take(r.b, r.at, size)
-	if e != api.OK {
-		r.bad = true
-		return 0
+	if e == api.OK {
+		r.at = next
 	}
-	r.at = next
 	return n
 }
 

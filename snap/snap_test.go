@@ -119,6 +119,7 @@ func bad() []api.State {
 		func(s *api.State) { s.Nodes[1].R.C[0] = 1 }, func(s *api.State) { s.Nodes[1].R.G[0] = -1 }, func(s *api.State) { s.Nodes[2].R.G[0] = 1 }, func(s *api.State) { s.Nodes[0].R.R[2][2] = 1 },
 		func(s *api.State) { s.Grants[0].Origin = 0 }, func(s *api.State) { s.Grants[2].Origin = 7 }, func(s *api.State) { s.Grants[0].Origin = -1 }, func(s *api.State) { s.Grants[2].Origin = 256 + 1 }, func(s *api.State) { s.Grants[0].Req = 0 },
 		func(s *api.State) { s.Grants[1].Req, s.Grants[1].By = 3, 0 }, func(s *api.State) { s.Grants[1].Req = 2 }, func(s *api.State) { s.Grants[0].Origin = 2 }, func(s *api.State) { s.Grants[0], s.Grants[1] = s.Grants[1], s.Grants[0] },
+		func(s *api.State) { s.Nodes[1].Id, s.Grants = 5, nil }, func(s *api.State) { s.Nodes[0].Id, s.Grants = 7, nil },
 		func(s *api.State) { s.Grants[0].Node = 0 }, func(s *api.State) { s.Grants[0].Node = 6 }, func(s *api.State) { s.Nodes = nil },
 		func(s *api.State) { s.Grants[0].Amount = 0 }, func(s *api.State) { s.Grants[0].Amount = -1 }, func(s *api.State) { s.Grants[0].Amount = api.MaxAmount + 1 }, func(s *api.State) { s.Grants[0].By = 3 },
 	} {
@@ -230,6 +231,19 @@ func TestJoin(t *testing.T) {
 	got.Nodes[0].Id, got.Grants[0].Req = 1, 1
 	if !same(a, was) {
 		t.Error("R3: Join shares memory")
+	}
+}
+
+func TestLessOfOneThingMore(t *testing.T) {
+	for k, turn := range []func(s *api.State){
+		func(s *api.State) { s.In[2] = true }, func(s *api.State) { s.Left[0] = true }, func(s *api.State) { s.Known[2] = 1 },
+		func(s *api.State) { s.Nodes[1].R.G[0] = 1 }, func(s *api.State) { s.Nodes = append(s.Nodes[:1:1], append([]api.Node{{Id: 6}}, s.Nodes[1:]...)...) },
+		func(s *api.State) { s.Grants[0].By = 9 }, func(s *api.State) { s.Grants = append(s.Grants, api.Grant{Origin: 6, Req: 2, Node: 7, Amount: 1}) },
+	} {
+		more := turned(some(), turn)
+		if !snap.May(more) || !snap.Less(some(), more) || snap.Less(more, some()) {
+			t.Errorf("P32.2: %d: Less: %v, %v", k, snap.Less(some(), more), snap.Less(more, some()))
+		}
 	}
 }
 

@@ -190,7 +190,7 @@ func TestQuotaErrors(t *testing.T) {
 		i int
 		n uint64
 		e api.Errno
-	}{{0, a, api.ErrRegion}, {7, a, api.ErrRegion}, {-1, 9, api.ErrRegion}, {3, a, api.ErrPower}, {3, 9, api.ErrPower}, {1, 9, api.ErrNode}, {2, a, api.ErrNode}} {
+	}{{0, a, api.ErrRegion}, {7, a, api.ErrRegion}, {-1, 9, api.ErrRegion}, {3, a, api.ErrPower}, {3, 9, api.ErrPower}, {1, 9, api.ErrNode}, {2, a, api.ErrNode}, {6, a, api.ErrNode}} {
 		if q, e := w.Quota(c.i, c.n); q != (api.Quota{}) || e != c.e {
 			t.Errorf("P27.2: Quota of %d by %d: %v, %d", c.n, c.i, q, e)
 		}
@@ -239,6 +239,33 @@ func TestCalm(t *testing.T) {
 	}
 	calm(t, w, 100, 1)
 	calm(t, w, 100, 0)
+}
+
+func TestWhatIsUnderWayIsToldOfFirst(t *testing.T) {
+	w := fresh(t, 2)
+	do(t, w, ask(2, node(0, 10)), api.OK)
+	for k := range uint64(29) {
+		do(t, w, ask(2, api.Ask{Kind: api.EvRaise, Node: 2<<40 + 1, Amount: int64(k + 1)}), api.OK)
+	}
+	do(t, w, step(api.StTick, 2), api.OK)
+	// Heard ahead of all, these 16 events are known to 1 when it tells 2; so 2 tells the others in the same round.
+	calm(t, w, 10, 1)
+}
+
+func TestADeadRegionIsOpenedAnew(t *testing.T) {
+	w := fresh(t, 1)
+	do(t, w, ask(1, node(0, 1<<40)), api.OK)
+	var e api.Errno
+	req := uint64(0)
+	for ; e == api.OK; req++ {
+		e = w.Do(ask(1, take(a, 1, req+1))).E
+	}
+	if _, up := w.Cluster().State(1); up || e != api.ErrFull {
+		t.Fatalf("P24.2: a region whose disk is full: %v, %d", up, e)
+	}
+	do(t, w, step(api.StOn, 1), api.ErrState)
+	calm(t, w, 0, 0)
+	quota(t, w, 1, a, 1<<40, int64(req-1), 1<<40-int64(req-1))
 }
 
 func TestLiveOnes(t *testing.T) {
