@@ -213,6 +213,22 @@ func TestCalmHearsWhatIsUnderWay(t *testing.T) {
 	}
 }
 
+func TestCalmOpensADeadRegionAnew(t *testing.T) {
+	w := fresh(t, 1)
+	ask(t, w, 1, node(1<<40), api.OK)
+	x := api.Answer{}
+	for req := uint64(1); x.E == api.OK; req++ {
+		x = w.Do(api.Step{Do: api.StAsk, Who: 1, A: take(1, req)})
+	}
+	if _, up := w.Cluster().State(1); up || x.E != api.ErrFull {
+		t.Fatalf("a region whose disk is full: %v, %d", up, x.E)
+	}
+	calm(t, w, 1, nil, 1, 1, api.OK)
+	if _, up := w.Cluster().State(1); !up {
+		t.Error("P30.3: it is not up")
+	}
+}
+
 func TestCalmHearsFirst(t *testing.T) {
 	w := fresh(t, 2)
 	for range 5 {

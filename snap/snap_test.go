@@ -111,7 +111,7 @@ func good() []api.State {
 }
 
 func bad() []api.State {
-	l := []api.State{chain(api.MaxNodes + 1), granted(snap.MaxGrants + 1)}
+	l := []api.State{chain(api.MaxNodes + 1), granted(snap.MaxGrants + 1), {Nodes: []api.Node{{Id: 0}}}, {Nodes: []api.Node{{Id: 5}, {Id: 5}}}, {Nodes: []api.Node{{Id: 7}, {Id: 5}}}, {Nodes: []api.Node{{Id: 5}, {Id: 6}, {Id: 6}}}}
 	for _, turn := range []func(s *api.State){
 		func(s *api.State) { s.Left[2] = true }, func(s *api.State) { s.Left[5] = true }, func(s *api.State) { s.Known[2] = api.MaxSeq + 1 }, func(s *api.State) { s.Known[0] = 1<<64 - 1 },
 		func(s *api.State) { s.Nodes[0].Id = 0 }, func(s *api.State) { s.Nodes[1].Id = 5 }, func(s *api.State) { s.Nodes[0].Id = 8 }, func(s *api.State) { s.Nodes[0], s.Nodes[1] = s.Nodes[1], s.Nodes[0] },
